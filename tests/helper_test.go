@@ -69,12 +69,17 @@ func roomy(r impl.Row) impl.Row {
 	return c
 }
 
-// sameInts: an empty list and nil are the same value.
-func sameInts(t *testing.T, what string, got, want []int) {
+// sameList: an empty list and nil are the same value.
+func sameList[E comparable](t *testing.T, what string, got, want []E) {
 	t.Helper()
 	if !slices.Equal(got, want) {
 		t.Errorf("%s: %v, not %v", what, got, want)
 	}
+}
+
+func sameInts(t *testing.T, what string, got, want []int) {
+	t.Helper()
+	sameList(t, what, got, want)
 }
 
 // keepsRow fails when ask writes into the row that it is given.
@@ -88,8 +93,8 @@ func keepsRow(t *testing.T, what string, r impl.Row, ask func(impl.Row)) {
 	}
 }
 
-// newList fails when the list that ask answers shares memory with the row or with another answer.
-func newList(t *testing.T, what string, r impl.Row, ask func(impl.Row) []int) {
+// newList fails when the list that ask answers shares memory with the row or with another answer. What is written into an answer is spoil.
+func newList[E comparable](t *testing.T, what string, r impl.Row, spoil E, ask func(impl.Row) []E) {
 	t.Helper()
 	given := roomy(r)
 	before := copyOf(whole(given))
@@ -97,15 +102,16 @@ func newList(t *testing.T, what string, r impl.Row, ask func(impl.Row) []int) {
 	want := slices.Clone(first)
 	spoilt := toCap(first)
 	for i := range spoilt {
-		spoilt[i] = -99
+		spoilt[i] = spoil
 	}
 	if !reflect.DeepEqual(whole(given), before) {
 		t.Errorf("%s: writing into the answer changes the argument", what)
 	}
-	sameInts(t, what+": the other answer, after writing into the first", second, want)
-	sameInts(t, what+": a later answer, after writing into the first", ask(given), want)
+	sameList(t, what+": the other answer, after writing into the first", second, want)
+	sameList(t, what+": a later answer, after writing into the first", ask(given), want)
 	for i := range given.Next {
-		given.Next[i], given.Far[i] = -1, 0
+		given.Next[i], given.Far[i], given.Open[i] = -1, 0, !given.Open[i]
+		clear(given.Works[i])
 	}
-	sameInts(t, what+": the answer, after writing into the argument", second, want)
+	sameList(t, what+": the answer, after writing into the argument", second, want)
 }

@@ -324,8 +324,8 @@ func TestRowArgumentsAreKept(t *testing.T) {
 func TestRowAnswersAreNew(t *testing.T) {
 	for name, r := range map[string]impl.Row{"line": lineOf(5), "ring": ringOf(5), "star": rowOf(3, 3, 3, 3, 3), "all in order": rowOf(1, 2, 3, 4, -1)} {
 		for signal := range r.Next {
-			newList(t, fmt.Sprint("Behind of ", signal, ", ", name), r, func(r impl.Row) []int { return impl.Behind(r, signal) })
-			newList(t, fmt.Sprint("Chain of ", signal, ", ", name), r, func(r impl.Row) []int { return impl.Chain(r, signal) })
+			newList(t, fmt.Sprint("Behind of ", signal, ", ", name), r, -99, func(r impl.Row) []int { return impl.Behind(r, signal) })
+			newList(t, fmt.Sprint("Chain of ", signal, ", ", name), r, -99, func(r impl.Row) []int { return impl.Chain(r, signal) })
 		}
 	}
 }
