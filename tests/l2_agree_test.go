@@ -91,19 +91,6 @@ func smallRows(count int, call func(r impl.Row)) {
 	from(0)
 }
 
-// threeOpen calls with every right row of three open signals. The row is the same memory for each way of its Nexts.
-func threeOpen(call func(r impl.Row)) {
-	for next := range 64 {
-		r := rowOf(next%4-1, next/4%4-1, next/16-1)
-		for lamps := range 4096 {
-			for i := range 12 {
-				r.Works[i/4][i%4] = lamps>>i&1 == 0
-			}
-			call(r)
-		}
-	}
-}
-
 // drawnRows calls with greater rows, drawn from fixed numbers: some nearly whole, some with much closed and broken.
 func drawnRows(count int, call func(r impl.Row)) {
 	draw := rand.New(rand.NewPCG(2, 5))
@@ -125,19 +112,11 @@ func drawnRows(count int, call func(r impl.Row)) {
 	}
 }
 
-// manyRows calls with all rows of up to two signals, all open ones of three, and greater ones.
-func manyRows(call func(r impl.Row)) {
-	for count := range 3 {
-		smallRows(count, call)
-	}
-	threeOpen(call)
-	drawnRows(3000, call)
-}
-
 // P2 and P3
 
 func TestAgreeing(t *testing.T) {
-	manyRows(func(r impl.Row) {
+	t.Parallel()
+	ask := func(r impl.Row) {
 		wants, shows := impl.Wants(r), impl.Shows(r)
 		if !agrees(r, wants, shows) {
 			t.Fatalf("%v: wants %v and shows %v do not agree", r, wants, shows)
@@ -146,7 +125,11 @@ func TestAgreeing(t *testing.T) {
 		if !slices.Equal(wants, plainWanted) || !slices.Equal(shows, plainShown) {
 			t.Fatalf("%v: wants %v and shows %v, all at once %v and %v", r, wants, shows, plainWanted, plainShown)
 		}
-	})
+	}
+	for count := range 4 {
+		smallRows(count, ask)
+	}
+	drawnRows(3000, ask)
 }
 
 // everyAgreeing calls with every way in which a small row agrees: what is wanted hangs on what is shown alone.
@@ -175,6 +158,7 @@ func everyAgreeing(r impl.Row, call func(wants, shows []int)) {
 }
 
 func TestNoOtherAgreeingIsLessFree(t *testing.T) {
+	t.Parallel()
 	several := 0
 	ask := func(r impl.Row) {
 		wants, shows := impl.Wants(r), impl.Shows(r)
@@ -195,10 +179,9 @@ func TestNoOtherAgreeingIsLessFree(t *testing.T) {
 			several++
 		}
 	}
-	for count := range 3 {
+	for count := range 4 {
 		smallRows(count, ask)
 	}
-	threeOpen(ask)
 	if several < 1000 {
 		t.Errorf("only %d rows agree in several ways: the least one is hardly asked for", several)
 	}
@@ -236,6 +219,7 @@ func askTurned(t *testing.T, r, after impl.Row, changes []impl.Change) {
 }
 
 func TestNothingBecomesFreer(t *testing.T) {
+	t.Parallel()
 	ask := func(r impl.Row) {
 		for signal := range r.Next {
 			askTurned(t, r, turned(r, shut(signal)), impl.Closing(r, signal))
