@@ -137,12 +137,12 @@ func TestRowsAreReadBack(t *testing.T) {
 	drawnRows(2000, ask)
 }
 
-// Every seventh of the rows of three signals, for there are two million of them.
+// One in 31 of the rows of three signals, for there are two million of them.
 func TestRowsOfThreeAreReadBack(t *testing.T) {
 	t.Parallel()
 	at := 0
 	smallRows(3, func(r impl.Row) {
-		if at++; at%7 == 0 {
+		if at++; at%31 == 0 {
 			readsBack(t, r)
 			answerTells(t, r)
 		}
